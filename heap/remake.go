@@ -1,0 +1,67 @@
+package heap
+
+import (
+	"palaver/api"
+	"palaver/words"
+)
+
+// Given is how many hashes were given.
+func (h *Heap) Given() int { return h.given }
+
+// SetGiven says how many were.
+func (h *Heap) SetGiven(n int) api.Errno {
+	if !isIndex(n, api.MaxHash) {
+		return api.ErrArg
+	}
+	h.given = n
+	return api.OK
+}
+
+// Place is where in pins an object is.
+func (h *Heap) Place(o api.Oop) int {
+	if h.Space(o) != api.Pins {
+		return -1
+	}
+	at, _ := words.WordOf(o)
+	return at - h.areas[api.Pins].begin
+}
+
+// Remake makes an object with a header, in old, or at a place of pins.
+func (h *Heap) Remake(at int, x api.Header, literals int) (api.Oop, api.Errno) {
+	if at < -1 || !isRemade(x, literals) {
+		return 0, api.ErrArg
+	}
+	begin, err := h.claimAt(at, x)
+	if err != api.OK {
+		return 0, err
+	}
+	h.put(begin, x, literals)
+	return address(begin), api.OK
+}
+
+// isRemade tells whether an object may have that header and so many literals.
+func isRemade(x api.Header, literals int) bool {
+	if _, _, err := words.Pack(x); err != api.OK || x.Marked || x.Noted {
+		return false
+	}
+	if x.Format != api.FormatMethod {
+		return literals == 0
+	}
+	// A method whose literals fill its slots has no bytes, and none to spare.
+	return isIndex(literals, x.Slots) && (x.Spare == 0 || literals < x.Slots-1)
+}
+
+// claimAt takes the words of an object, as claim does: from old if the place is -1, else at that place of pins.
+func (h *Heap) claimAt(at int, x api.Header) (int, api.Errno) {
+	if at == -1 {
+		return h.claim(api.Old, x)
+	}
+	pins := h.area(api.Pins)
+	size := sizeOf(x)
+	// Compared so, because the sum of both may be no int.
+	if at > pins.end-pins.begin-size {
+		return 0, api.ErrHeapFull
+	}
+	begin := pins.begin + at
+	return begin, h.gaps.take(begin, begin+size)
+}
