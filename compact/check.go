@@ -3,6 +3,7 @@ package compact
 import (
 	"palaver/api"
 	"palaver/heap"
+	"palaver/trace"
 	"palaver/words"
 )
 
@@ -32,7 +33,7 @@ func isKnown(h *heap.Heap, v api.Oop) bool {
 
 func checkObject(h *heap.Heap, o api.Oop) api.Errno {
 	namesYoung := false
-	for _, v := range oops(h, o) {
+	for _, v := range trace.Oops(h, o) {
 		if !isKnown(h, v) {
 			return api.ErrHeapOop
 		}

@@ -1,4 +1,4 @@
-package compact
+package trace
 
 import (
 	pile "container/heap"
