@@ -14,7 +14,7 @@ func Check(h *heap.Heap) (api.Errno, api.Oop) {
 			return api.ErrHeapRoot, 0
 		}
 	}
-	for o := range all(h) {
+	for o := range trace.All(h) {
 		if err := checkObject(h, o); err != api.OK {
 			return err, o
 		}
@@ -37,22 +37,14 @@ func checkObject(h *heap.Heap, o api.Oop) api.Errno {
 		if !isKnown(h, v) {
 			return api.ErrHeapOop
 		}
-		namesYoung = namesYoung || isYoung(h, v)
+		namesYoung = namesYoung || trace.IsYoung(h, v)
 	}
 	x, _ := h.Head(o)
 	switch {
-	case namesYoung && !x.Noted && !isYoung(h, o):
+	case namesYoung && !x.Noted && !trace.IsYoung(h, o):
 		return api.ErrHeapKind
 	case x.Marked:
 		return api.ErrArg
 	}
 	return api.OK
-}
-
-func isYoung(h *heap.Heap, o api.Oop) bool {
-	switch h.Space(o) {
-	case api.Eden, api.Past, api.Future:
-		return true
-	}
-	return false
 }

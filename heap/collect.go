@@ -4,6 +4,7 @@ import (
 	"slices"
 
 	"palaver/api"
+	"palaver/shape"
 	"palaver/words"
 )
 
@@ -63,7 +64,7 @@ func (h *Heap) remove(b object) {
 	}
 	h.setStart(b.at, false)
 	if h.spaceAt(b.at) == api.Pins {
-		h.gaps.give(b.at, b.at+sizeOf(b.head))
+		h.gaps.give(b.at, b.at+shape.Words(b.head))
 	}
 }
 
@@ -162,7 +163,7 @@ func (h *Heap) goals() ([]int, int) {
 	for o := range h.Walk(api.Old) {
 		b, _ := h.find(o)
 		l[b.at-a.begin] = end
-		end += sizeOf(b.head)
+		end += shape.Words(b.head)
 	}
 	return l, end
 }
@@ -194,7 +195,7 @@ func renameIn[W ~uint64](l []W, name func(api.Oop) api.Oop) {
 func (h *Heap) move(o, to api.Oop) {
 	b, _ := h.find(o)
 	at, _ := words.WordOf(to)
-	size := sizeOf(b.head)
+	size := shape.Words(b.head)
 	copy(h.words[at:at+size:at+size], h.words[b.at:b.at+size])
 	h.setStart(b.at, false)
 	h.setStart(at, true)

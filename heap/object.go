@@ -2,14 +2,11 @@ package heap
 
 import (
 	"palaver/api"
+	"palaver/shape"
 	"palaver/words"
 )
 
-const (
-	headWords = 2 // ahead of an object's slots
-	slotBytes = 8
-	byteBits  = 8
-)
+const byteBits = 8
 
 // object is an object's header as it was, and its slots themselves.
 type object struct {
@@ -18,15 +15,10 @@ type object struct {
 	slots []uint64
 }
 
-// sizeOf is how many words an object with that header has.
-func sizeOf(x api.Header) int {
-	return headWords + x.Slots
-}
-
 // object is the one that begins at a word.
 func (h *Heap) object(at int) object {
 	x, _ := words.Unpack(h.words[at], h.words[at+1])
-	begin, end := at+headWords, at+sizeOf(x)
+	begin, end := at+shape.HeadWords, at+shape.Words(x)
 	return object{at: at, head: x, slots: h.words[begin:end:end]}
 }
 
@@ -70,7 +62,7 @@ func (b object) bytes() ([]uint64, int) {
 	switch b.head.Format {
 	case api.FormatBytes, api.FormatMethod:
 		l := b.slots[len(b.oops()):]
-		return l, len(l)*slotBytes - b.head.Spare
+		return l, len(l)*shape.SlotBytes - b.head.Spare
 	}
 	return nil, 0
 }
@@ -151,7 +143,7 @@ func (h *Heap) byteOf(o api.Oop, i int) (*uint64, int, api.Errno) {
 	if !isIndex(i, n) {
 		return nil, 0, api.ErrHeapIndex
 	}
-	return &l[i/slotBytes], i % slotBytes * byteBits, api.OK
+	return &l[i/shape.SlotBytes], i % shape.SlotBytes * byteBits, api.OK
 }
 
 // Byte is one of an object's bytes.

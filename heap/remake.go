@@ -2,6 +2,7 @@ package heap
 
 import (
 	"palaver/api"
+	"palaver/shape"
 	"palaver/words"
 )
 
@@ -28,7 +29,7 @@ func (h *Heap) Place(o api.Oop) int {
 
 // Remake makes an object with a header, in old, or at a place of pins.
 func (h *Heap) Remake(at int, x api.Header, literals int) (api.Oop, api.Errno) {
-	if at < -1 || !isRemade(x, literals) {
+	if at < -1 || !shape.Suits(x, literals) {
 		return 0, api.ErrArg
 	}
 	begin, err := h.claimAt(at, x)
@@ -39,25 +40,13 @@ func (h *Heap) Remake(at int, x api.Header, literals int) (api.Oop, api.Errno) {
 	return address(begin), api.OK
 }
 
-// isRemade tells whether an object may have that header and so many literals.
-func isRemade(x api.Header, literals int) bool {
-	if _, _, err := words.Pack(x); err != api.OK || x.Marked || x.Noted {
-		return false
-	}
-	if x.Format != api.FormatMethod {
-		return literals == 0
-	}
-	// A method whose literals fill its slots has no bytes, and none to spare.
-	return isIndex(literals, x.Slots) && (x.Spare == 0 || literals < x.Slots-1)
-}
-
 // claimAt takes the words of an object, as claim does: from old if the place is -1, else at that place of pins.
 func (h *Heap) claimAt(at int, x api.Header) (int, api.Errno) {
 	if at == -1 {
 		return h.claim(api.Old, x)
 	}
 	pins := h.area(api.Pins)
-	size := sizeOf(x)
+	size := shape.Words(x)
 	// Compared so, because the sum of both may be no int.
 	if at > pins.end-pins.begin-size {
 		return 0, api.ErrHeapFull

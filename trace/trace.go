@@ -1,4 +1,4 @@
-// Package trace finds the objects of a heap that live, for the layers that free the others and for those that only look.
+// Package trace finds the objects of a heap that live, for the layers that free the others and for those that only look; and it goes through all objects, and through the oops of one.
 package trace
 
 import (
@@ -15,6 +15,28 @@ type Visited interface {
 	Add(o api.Oop) bool
 	// Has tells whether an object is in the set.
 	Has(o api.Oop) bool
+}
+
+// All goes through the objects of all spaces, in the order of these, and in each by rising addresses.
+func All(h *heap.Heap) iter.Seq[api.Oop] {
+	return func(yield func(api.Oop) bool) {
+		for sp := api.Eden; sp <= api.Pins; sp++ {
+			for o := range h.Walk(sp) {
+				if !yield(o) {
+					return
+				}
+			}
+		}
+	}
+}
+
+// IsYoung tells whether an oop is an object that a scavenge may move.
+func IsYoung(h *heap.Heap, o api.Oop) bool {
+	switch h.Space(o) {
+	case api.Eden, api.Past, api.Future:
+		return true
+	}
+	return false
 }
 
 // Oops goes through an object's oops, with their indexes.

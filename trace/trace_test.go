@@ -52,6 +52,66 @@ func alloc(t *testing.T, h *heap.Heap, f api.Format, oops ...api.Oop) api.Oop {
 	return o
 }
 
+// scattered is a heap with an object in each space; these, in the order of the spaces.
+func scattered(t *testing.T) (*heap.Heap, []api.Oop) {
+	t.Helper()
+	h, e := heap.New(api.Sizes{Eden: 64, Survivor: 16, Bound: 64, Pins: 16})
+	if e != api.OK {
+		t.Fatal(e)
+	}
+	var l []api.Oop
+	for _, sp := range []api.Space{api.Future, api.Eden, api.Future, api.Old, api.Pins} {
+		if len(l) == 1 {
+			h.Flip()
+		}
+		o, e := h.Alloc(sp, 5, api.FormatWords, 1)
+		if e != api.OK {
+			t.Fatal(e)
+		}
+		l = append(l, o)
+	}
+	return h, []api.Oop{l[1], l[0], l[2], l[3], l[4]}
+}
+
+func TestAll(t *testing.T) {
+	h, want := scattered(t)
+	if got := slices.Collect(trace.All(h)); !slices.Equal(got, want) {
+		t.Errorf("%v, not %v", got, want)
+	}
+	late, _ := h.Alloc(api.Eden, 5, api.FormatWords, 0)
+	want = slices.Insert(want, 1, late)
+	all := trace.All(h)
+	for stop := range len(want) {
+		var got []api.Oop
+		for o := range all {
+			got = append(got, o)
+			if len(got) > stop {
+				break
+			}
+		}
+		if !slices.Equal(got, want[:stop+1]) {
+			t.Errorf("stopped early: %v, not %v", got, want[:stop+1])
+		}
+	}
+	if got := slices.Collect(trace.All(made(t))); len(got) > 0 {
+		t.Errorf("an empty heap: %v", got)
+	}
+}
+
+func TestIsYoung(t *testing.T) {
+	h, l := scattered(t)
+	for i, o := range l {
+		if trace.IsYoung(h, o) != (i < 3) {
+			t.Errorf("object %d: %v", i, i >= 3)
+		}
+	}
+	for _, o := range []api.Oop{0, 9, 778, 3, l[0] + 8, 1 << 31} {
+		if trace.IsYoung(h, o) {
+			t.Errorf("%d is young", o)
+		}
+	}
+}
+
 func TestOops(t *testing.T) {
 	h := made(t)
 	a := alloc(t, h, api.FormatPointers)
